@@ -226,7 +226,7 @@ func TestShortOfPlainOnes(t *testing.T) {
 		// Two that are as near: the even one.
 		{1<<50 + 0.25, "11258999068426242", -1}, {1<<50 + 0.75, "11258999068426248", -1},
 		{1<<50 + 1.25, "11258999068426252", -1}, {1<<50 + 1.75, "11258999068426258", -1},
-		// The last power of 2 below which the digits 9.007199254740992 are not the nearest, and one with 17.
+		// Powers of 2: the fractions below them are twice as dense as those above.
 		{9007199254740992 * 2, "18014398509481984", 0}, {math.Ldexp(1, -44), "5684341886080802", -29},
 	} {
 		for _, sign := range []uint64{0, signBit} {
