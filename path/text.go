@@ -8,8 +8,8 @@ import (
 	"typecase/num"
 )
 
-// ofKey is the I of a step to an entry.
-const ofKey = -1
+// OfKey is the I of a step to an entry.
+const OfKey = -1
 
 // maxPlace is the greatest I that is read.
 const maxPlace = 1 << 62
@@ -25,7 +25,7 @@ const (
 
 // writeStep of a path that Check takes: so its key is not refused.
 func writeStep(b *strings.Builder, step api.Step) {
-	if step.I == ofKey {
+	if step.I == OfKey {
 		key, _ := esc.Key(step.Key)
 		b.WriteString(keyAhead + key)
 		return
@@ -60,13 +60,13 @@ func cutStep(s string) (api.Step, string, bool) {
 func cutKey(s string) (api.Step, string, bool) {
 	if strings.HasPrefix(s, quote) {
 		said, size, e := esc.Unquote(s)
-		return api.Step{Key: said, I: ofKey}, s[size:], e == api.OK
+		return api.Step{Key: said, I: OfKey}, s[size:], e == api.OK
 	}
 	end := strings.IndexAny(s, keyAhead+placeAhead)
 	if end < 0 {
 		end = len(s)
 	}
-	return api.Step{Key: s[:end], I: ofKey}, s[end:], true
+	return api.Step{Key: s[:end], I: OfKey}, s[end:], true
 }
 
 func cutPlace(s string) (api.Step, string, bool) {

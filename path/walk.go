@@ -13,7 +13,7 @@ const maxPaths = 1000
 
 // partAt a step of a value, which may be none that is good.
 func partAt(v *api.Value, step api.Step) (*api.Value, api.Errno) {
-	if step.I == ofKey {
+	if step.I == OfKey {
 		return entryAt(v, step.Key)
 	}
 	return elementAt(v, step.I)
@@ -49,7 +49,7 @@ func parts(v *api.Value) iter.Seq2[api.Step, *api.Value] {
 			}
 		}
 		for i := range v.E {
-			if !yield(api.Step{Key: v.E[i].Key, I: ofKey}, &v.E[i].V) {
+			if !yield(api.Step{Key: v.E[i].Key, I: OfKey}, &v.E[i].V) {
 				return
 			}
 		}
