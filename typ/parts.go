@@ -75,6 +75,15 @@ func kindsAlone(kind int) kinds {
 	return 0
 }
 
+// elementOf a union, that one which has the kind: there is one.
+func (c *checker) elementOf(union *api.Type, kind kinds) *api.Type {
+	i := 0
+	for c.kindsOf(&union.T[i])&kind == 0 {
+		i++
+	}
+	return &union.T[i]
+}
+
 // partsOf a type of a checked schema, copied.
 func (c *checker) partsOf(t *api.Type) []api.Type {
 	// What has no kinds has no parts, however often it is told; and what has some is told once, or there would be a clash.
